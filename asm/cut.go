@@ -53,7 +53,8 @@ func cut(line string) ([]piece, bool) {
 			return nil, false
 		}
 	}
-	return c.pieces, c.end()
+	right := c.end() // ahead of the pieces, behind which it may lay the last one
+	return c.pieces, right
 }
 
 func (c *cutter) take(r rune) bool {

@@ -40,7 +40,8 @@ func read(text string) (api.Program, int, api.Errno) {
 	if line, e := r.settle(); e != api.OK {
 		return api.Program{}, line, e
 	}
-	return r.p, 0, prog.Check(r.p)
+	e := prog.Check(r.p)
+	return r.p, 0, e
 }
 
 // line takes the next line of the text.

@@ -100,7 +100,8 @@ func (g *grower) take() api.Part {
 func (g *grower) block() *block {
 	b := &block{}
 	for range g.take().Kids {
-		b.doings = append(b.doings, g.doing())
+		x := g.doing()
+		b.doings = append(b.doings, x)
 	}
 	return b
 }

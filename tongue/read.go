@@ -150,7 +150,8 @@ func (r *reader) function() {
 	}
 	r.must(")")
 	r.u.Funcs = append(r.u.Funcs, f)
-	r.bodies = append(r.bodies, r.block())
+	body := r.block()
+	r.bodies = append(r.bodies, body)
 }
 
 // newNames reads the names of arguments, or of other locals, behind those of a list.
